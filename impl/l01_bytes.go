@@ -211,6 +211,11 @@ func isDigit(b byte) bool {
 	return b >= '0' && b <= '9'
 }
 
+// isTime: see chapter 1.
+func isTime(n int64) bool {
+	return n >= 0 && n <= MaxTime
+}
+
 // Crc: see chapter 2.
 func Crc(text string) int64 {
 	// The CRC of no bytes is 0: all ones, turned.
