@@ -78,6 +78,19 @@ func together(head string, tail string) string {
 	return string(b)
 }
 
+func textCopy(text string) string {
+	return together(text, "")
+}
+
+// copiesOf makes a list of its own; copyOf answers new memory.
+func copiesOf[T any](l []T, copyOf func(T) T) []T {
+	var copies []T
+	for _, x := range l {
+		copies = append(copies, copyOf(x))
+	}
+	return copies
+}
+
 // PutNum: see chapter 2.
 func PutNum(n int64) string {
 	var b [numBytes]byte
